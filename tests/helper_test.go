@@ -59,3 +59,11 @@ func checkNumber(t *testing.T, call string, got int, want int) {
 		t.Fatalf("%s returned %d instead of %d", call, got, want)
 	}
 }
+
+// checkText fails unless a call returned a text.
+func checkText(t *testing.T, call string, got string, want string) {
+	t.Helper()
+	if got != want {
+		t.Fatalf("%s returned %q instead of %q", call, got, want)
+	}
+}
